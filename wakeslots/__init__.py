@@ -1,0 +1,1 @@
+"""When two who sleep both wake."""
