@@ -1,20 +1,10 @@
 """Points 1 and 2 of the document, as far as they concern next_awake."""
 
-import contextlib
 import inspect
-import io
-import sys
 import unittest
 
+from tests.support import TOO_GREAT, TOP, WRONG_NUMBERS, EachCallByItself, is_awake
 from wakeslots.meeting import next_awake
-
-TOP = 2 ** 40
-GREATEST_P = 4294967295
-GREATEST_T = 18446744073709551615
-
-
-def is_awake(p, q, slot):
-    return slot % p == 0 or slot % q == 0
 
 
 def walked(p, q, t):
@@ -22,16 +12,6 @@ def walked(p, q, t):
     while not is_awake(p, q, slot):
         slot += 1
     return [slot]
-
-
-class Deaf(io.StringIO):
-    """An input that can't be read from."""
-
-    def read(self, *size):
-        raise AssertionError("the input was read")
-
-    readline = read
-    __next__ = read
 
 
 class AgainstTheWalk(unittest.TestCase):
@@ -130,37 +110,34 @@ class Corners(unittest.TestCase):
 
 
 class Refusals(unittest.TestCase):
-    WRONG = (0, 1, 1001, GREATEST_P)
-    TOO_LATE = (TOP + 1, GREATEST_T)
-
     def refused(self, p, q, t):
         self.assertEqual(next_awake(p, q, t), [-22], (p, q, t))
 
     def test_one_number_wrong(self):
-        for wrong in self.WRONG:
+        for wrong in WRONG_NUMBERS:
             for right in (2, 7, 1000):
                 for t in (0, 1, 1001, TOP):
                     self.refused(wrong, right, t)
                     self.refused(right, wrong, t)
 
     def test_both_numbers_wrong(self):
-        for p in self.WRONG:
-            for q in self.WRONG:
+        for p in WRONG_NUMBERS:
+            for q in WRONG_NUMBERS:
                 for t in (0, 5, TOP):
                     self.refused(p, q, t)
 
     def test_t_too_great(self):
-        for t in self.TOO_LATE:
+        for t in TOO_GREAT:
             for p in (2, 7, 997, 1000):
                 for q in (2, 7, 991, 1000):
                     self.refused(p, q, t)
 
     def test_several_faults(self):
-        for t in self.TOO_LATE:
-            for wrong in self.WRONG:
+        for t in TOO_GREAT:
+            for wrong in WRONG_NUMBERS:
                 self.refused(wrong, 7, t)
                 self.refused(7, wrong, t)
-                for other in self.WRONG:
+                for other in WRONG_NUMBERS:
                     self.refused(wrong, other, t)
 
     def test_just_inside_is_not_refused(self):
@@ -169,43 +146,11 @@ class Refusals(unittest.TestCase):
                 self.assertNotEqual(next_awake(p, q, TOP), [-22])
 
 
-class EachCallByItself(unittest.TestCase):
+class EachCall(EachCallByItself, unittest.TestCase):
     CALLS = ((3, 5, 4), (997, 991, TOP), (0, 5, 4), (3, 5, TOP + 1), (7, 7, 0), (1000, 2, 999))
 
-    def test_kind_of_the_answer(self):
-        for call in self.CALLS:
-            answer = next_awake(*call)
-            self.assertIs(type(answer), list)
-            self.assertEqual(len(answer), 1)
-            self.assertIs(type(answer[0]), int)
-
-    def test_same_call_again_with_others_between(self):
-        for call in self.CALLS:
-            before = next_awake(*call)
-            for other in self.CALLS:
-                next_awake(*other)
-            self.assertEqual(next_awake(*call), before)
-
-    def test_answer_that_was_changed_does_not_come_back(self):
-        for call in self.CALLS:
-            answer = next_awake(*call)
-            kept = list(answer)
-            answer.append(1)
-            answer[0] = 1
-            self.assertEqual(next_awake(*call), kept)
-
-    def test_nothing_printed_read_or_imported(self):
-        out, err, stdin = io.StringIO(), io.StringIO(), sys.stdin
-        loaded = set(sys.modules)
-        sys.stdin = Deaf()
-        try:
-            with contextlib.redirect_stdout(out), contextlib.redirect_stderr(err):
-                for call in self.CALLS:
-                    next_awake(*call)
-        finally:
-            sys.stdin = stdin
-        self.assertEqual((out.getvalue(), err.getvalue()), ("", ""))
-        self.assertEqual(set(sys.modules), loaded)
+    def asked(self, call):
+        return next_awake(*call)
 
 
 if __name__ == "__main__":

@@ -1,10 +1,11 @@
-"""In which slots sleepers are awake."""
+"""In which slots sleepers are awake, and in which two of them meet."""
 
 LEAST_NUMBER = 2
 GREATEST_NUMBER = 1000
-# 2^40, written out: the top of a module holds plain values alone
+# 2^40, for t and d alike, written out: the top of a module holds plain values alone
 GREATEST_SLOT = 1099511627776
 REFUSED = -22
+NEVER = -2
 
 
 def is_number_of_sleeper(number):
@@ -25,3 +26,28 @@ def next_awake(ap, aq, t):
     if not is_sleeper(ap, aq) or t > GREATEST_SLOT:
         return [REFUSED]
     return [min(first_multiple_from(ap, t), first_multiple_from(aq, t))]
+
+
+def first_common_slot(number, other, d, t):
+    """Answer the first slot from t on that number divides and that, d further on, other divides, or NEVER."""
+    first = first_multiple_from(number, t)
+    # other multiples of number are enough: after them the remainders by other come round again
+    for slot in range(first, first + other * number, number):
+        if (slot + d) % other == 0:
+            return slot
+    return NEVER
+
+
+def meet(ap, aq, bp, bq, d, t):
+    """Answer the first slot from t on, by a's clock, in which a and b, d apart, are both awake, or NEVER."""
+    if not is_sleeper(ap, aq) or not is_sleeper(bp, bq):
+        return [REFUSED]
+    if d > GREATEST_SLOT or t > GREATEST_SLOT:
+        return [REFUSED]
+    slots = []
+    for number in (ap, aq):
+        for other in (bp, bq):
+            slot = first_common_slot(number, other, d, t)
+            if slot != NEVER:
+                slots.append(slot)
+    return [min(slots, default=NEVER)]
