@@ -2,6 +2,8 @@
 
 import contextlib
 import io
+import math
+import random
 import sys
 
 TOP = 2 ** 40
@@ -13,6 +15,42 @@ TOO_GREAT = (TOP + 1, GREATEST_T)
 
 def is_awake(p, q, slot):
     return slot % p == 0 or slot % q == 0
+
+
+def do_meet(four, d, slot):
+    ap, aq, bp, bq = four
+    return is_awake(ap, aq, slot) and is_awake(bp, bq, slot + d)
+
+
+def pairs_of(four):
+    ap, aq, bp, bq = four
+    return ((ap, bp), (ap, bq), (aq, bp), (aq, bq))
+
+
+def coprime_products(four):
+    return [x * y for x, y in pairs_of(four) if math.gcd(x, y) == 1]
+
+
+def drawn_fours(seed, many, greatest):
+    draw = random.Random(seed)
+    return [tuple(draw.randint(2, greatest) for number in range(4)) for four in range(many)]
+
+
+def drawn_crosswise(seed, many):
+    """Draw sleepers whose numbers have common divisors all crosswise."""
+    fours = [four for four in drawn_fours(seed, many, 1000) if not coprime_products(four)]
+    draw = random.Random(seed)
+    for divisor in (2, 3, 5, 7, 31, 97, 331, 499):
+        for four in range(5):
+            fours.append(tuple(divisor * draw.randint(1, 1000 // divisor) for number in range(4)))
+    return fours
+
+
+def fours_with_one_wrong():
+    for wrong in WRONG_NUMBERS:
+        for place in range(4):
+            for right in ((3, 5, 4, 7), (2, 1000, 1000, 2), (4, 8, 6, 10)):
+                yield right[:place] + (wrong,) + right[place + 1:]
 
 
 class Deaf(io.StringIO):

@@ -5,13 +5,11 @@ import math
 import random
 import unittest
 
-from tests.support import TOO_GREAT, TOP, WRONG_NUMBERS, EachCallByItself, is_awake
+from tests.support import (
+    TOO_GREAT, TOP, WRONG_NUMBERS, EachCallByItself, coprime_products, do_meet, drawn_crosswise, drawn_fours,
+    fours_with_one_wrong, pairs_of,
+)
 from wakeslots.meeting import meet
-
-
-def do_meet(four, d, slot):
-    ap, aq, bp, bq = four
-    return is_awake(ap, aq, slot) and is_awake(bp, bq, slot + d)
 
 
 def walked(four, d, t, end):
@@ -33,30 +31,6 @@ def answers_of_a_round(four, d):
         if slot < whole:
             answers[slot] = [following]
     return answers
-
-
-def pairs_of(four):
-    ap, aq, bp, bq = four
-    return ((ap, bp), (ap, bq), (aq, bp), (aq, bq))
-
-
-def coprime_products(four):
-    return [x * y for x, y in pairs_of(four) if math.gcd(x, y) == 1]
-
-
-def drawn_fours(seed, many, greatest):
-    draw = random.Random(seed)
-    return [tuple(draw.randint(2, greatest) for number in range(4)) for four in range(many)]
-
-
-def drawn_crosswise(seed, many):
-    """Draw sleepers whose numbers have common divisors all crosswise."""
-    fours = [four for four in drawn_fours(seed, many, 1000) if not coprime_products(four)]
-    draw = random.Random(seed)
-    for divisor in (2, 3, 5, 7, 31, 97, 331, 499):
-        for four in range(5):
-            fours.append(tuple(divisor * draw.randint(1, 1000 // divisor) for number in range(4)))
-    return fours
 
 
 class AgainstTheWalk(unittest.TestCase):
@@ -253,14 +227,8 @@ class Refusals(unittest.TestCase):
     def refused(self, four, d, t):
         self.assertEqual(meet(*four, d, t), [-22], (four, d, t))
 
-    def with_one_wrong(self):
-        for wrong in WRONG_NUMBERS:
-            for place in range(4):
-                for right in ((3, 5, 4, 7), (2, 1000, 1000, 2), (4, 8, 6, 10)):
-                    yield right[:place] + (wrong,) + right[place + 1:]
-
     def test_one_number_wrong(self):
-        for four in self.with_one_wrong():
+        for four in fours_with_one_wrong():
             for d in (0, 1, TOP):
                 for t in (0, 1, TOP):
                     self.refused(four, d, t)
@@ -286,7 +254,7 @@ class Refusals(unittest.TestCase):
                     self.refused(four, much, more)
 
     def test_several_faults(self):
-        for four in self.with_one_wrong():
+        for four in fours_with_one_wrong():
             for much in TOO_GREAT:
                 self.refused(four, much, 0)
                 self.refused(four, 0, much)

@@ -51,3 +51,25 @@ def meet(ap, aq, bp, bq, d, t):
             if slot != NEVER:
                 slots.append(slot)
     return [min(slots, default=NEVER)]
+
+
+def greatest_common_divisor(number, other):
+    divisor = number
+    rest = other
+    while rest != 0:
+        former = rest
+        rest = divisor % rest
+        divisor = former
+    return divisor
+
+
+def within(ap, aq, bp, bq):
+    """Answer the least product of one of a's numbers and one of b's with no common divisor but 1, or NEVER."""
+    if not is_sleeper(ap, aq) or not is_sleeper(bp, bq):
+        return [REFUSED]
+    products = []
+    for number in (ap, aq):
+        for other in (bp, bq):
+            if greatest_common_divisor(number, other) == 1:
+                products.append(number * other)
+    return [min(products, default=NEVER)]
