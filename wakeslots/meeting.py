@@ -2,7 +2,7 @@
 
 LEAST_NUMBER = 2
 GREATEST_NUMBER = 1000
-# 2^40, for t and d alike, written out: the top of a module holds plain values alone
+# 2^40, for t, d and n alike, written out: the top of a module holds plain values alone
 GREATEST_SLOT = 1099511627776
 REFUSED = -22
 NEVER = -2
@@ -16,9 +16,15 @@ def is_sleeper(p, q):
     return is_number_of_sleeper(p) and is_number_of_sleeper(q)
 
 
+def multiples_before(number, slot):
+    """Answer how many of the slots from 0 to slot - 1 number divides."""
+    # slots may lie near 2^40, so the multiples are reckoned, not walked through
+    return (slot + number - 1) // number
+
+
 def first_multiple_from(number, t):
-    # slots may lie near 2^40, so the multiple is reckoned, not walked to
-    return (t + number - 1) // number * number
+    # multiples count from 0 times number on, so the count of those before t is the next one's own factor
+    return multiples_before(number, t) * number
 
 
 def next_awake(ap, aq, t):
@@ -73,3 +79,12 @@ def within(ap, aq, bp, bq):
             if greatest_common_divisor(number, other) == 1:
                 products.append(number * other)
     return [min(products, default=NEVER)]
+
+
+def many(ap, aq, n):
+    """Answer in how many of the slots from 0 to n - 1 a is awake."""
+    if not is_sleeper(ap, aq) or n > GREATEST_SLOT:
+        return [REFUSED]
+    least_common = ap * aq // greatest_common_divisor(ap, aq)
+    # a slot that both numbers divide is counted with either one, so it is taken off once
+    return [multiples_before(ap, n) + multiples_before(aq, n) - multiples_before(least_common, n)]
